@@ -77,6 +77,21 @@ func TestP8_1_2_Examples(t *testing.T) {
 		{Kind: api.KSet, Name: "s", Count: 3, Members: []string{"x", "y"}}}}})
 }
 
+func TestP8_2_UpTo(t *testing.T) {
+	a := agg.New()
+	apply(t, a, 1, "g:7|g", 0)
+	apply(t, a, 5, "g:3|g", 0)
+	apply(t, a, 5, "g:+1|g", 0)
+	apply(t, a, 1, "g:1|c", 0)
+	apply(t, a, 6, "h:1|c", 0)
+	same(t, "Close(4)", a.Close(4), []api.Window{{ID: 1, Tallies: []api.Tally{counter("g", 1, 1000000), gauge("g", 1, 7000000)}}})
+	same(t, "Open", a.Open(), []int64{5, 6})
+	same(t, "Close(6)", a.Close(6), []api.Window{{ID: 5, Tallies: []api.Tally{gauge("g", 2, 4000000)}}, {ID: 6, Tallies: []api.Tally{counter("h", 1, 1000000)}}})
+	if w, ok := a.Gauge("h"); w != (api.Wide{}) || ok {
+		t.Error("a counter is no gauge")
+	}
+}
+
 func TestP8_1_2_Errors(t *testing.T) {
 	a := agg.New()
 	apply(t, a, math.MinInt64, "a:1|c", api.ErrClosed)

@@ -151,6 +151,14 @@ func TestP23_2_Edges(t *testing.T) {
 	says(t, b, 79, gap, fine, none)
 	says(t, b, 80, cell(9), none, fine)
 
+	// A state that was come to leaves no candidate behind.
+	b = book(t, up())
+	feed(t, b, 1, cell(12), fine)
+	says(t, b, 2, cell(12), fine, warn)
+	says(t, b, 3, cell(1), warn, fine)
+	feed(t, b, 4, cell(12), fine)
+	says(t, b, 5, cell(12), fine, warn)
+
 	// In warn, one point of crit, and then another of warn: no point is left of it.
 	b = book(t, with(func(r *api.AlarmRule) {
 		r.Above, r.Warn, r.Crit, r.For, r.Absent, r.Again = false, wide.Of(20), wide.Of(10), 1, 0, 0

@@ -145,6 +145,28 @@ func TestP19_3_4_Examples(t *testing.T) {
 	points(t, f, 1, 0, 7, api.MaxStamp-api.MaxStamp%60, 1) // which has the place of 60
 }
 
+func TestP19_3_RollingUpEnds(t *testing.T) {
+	// All of two, and two of three, make one of the next archive.
+	f := create(t, spec(1, 4, 2, 4, 6, 3), api.MMax, 600000)
+	for at := range int64(4) {
+		update(t, f, at, at, 3, 0)
+	}
+	points(t, f, 2, 0, 3)
+	update(t, f, 0, 99, 9, 0)
+	points(t, f, 2, 0, 99)
+	update(t, f, 5, 1, 5, 0) // one of two: neither the second archive nor the third has a new point
+	points(t, f, 1, 0, 1, 2, 3)
+	points(t, f, 2, 0, 99)
+	update(t, f, 4, 1, 5, 0)
+	points(t, f, 1, 0, 1, 2, 3, 4, 1)
+	points(t, f, 2, 0, 3)
+	f = create(t, spec(1, 2, 2, 2, 4, 2, 8, 2, 16, 2, 32, 2, 64, 2, 128, 2), api.MMin, 0)
+	update(t, f, 7, 7, 7, 0)
+	if g, place, err := archive.Open(f.Bytes()); err != api.OK || place != 0 || !bytes.Equal(g.Bytes(), f.Bytes()) {
+		t.Errorf("Open of eight archives: %d at %d", err, place)
+	}
+}
+
 func TestP19_3_Values(t *testing.T) {
 	most := api.Wide{Hi: 1 << 16}
 	over, _ := wide.Add(most, wide.Of(1))

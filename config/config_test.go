@@ -65,7 +65,7 @@ func TestP25_1_Faults(t *testing.T) {
 	for s, line := range map[string]int{"[gate]\nwidth": 2, "x": 1, "[gate": 1, "gate]": 1, "=5": 1, "\n\n = 5": 3, "Width = 5": 1, "wi dth = 5": 1, "width2 = 5": 1, "[": 1, "]": 1, "[gate] # x": 1, "[gate]x = 1": 1, ";": 1, "\x00": 1, "[gate] =": 1} {
 		refused(t, s, api.ErrLine, line)
 	}
-	for s, line := range map[string]int{"width = 5": 1, "[x]": 1, "[]": 1, "[ gate]": 1, "[Gate]": 1, "[gate]\nwith = 5": 2, "[flush]\nwidth = 5": 2, "[gate]\n[flush]\nwidth = 5": 3, "[[gate]]": 1, "[gate]]": 1, "[rule]\nname = a": 2, "[relay]\nfor = 1": 2, "\n# x\nx=": 3} {
+	for s, line := range map[string]int{"width = 5": 1, "[x]": 1, "[]": 1, "[ gate]": 1, "[Gate]": 1, "[gate]\nwith = 5": 2, "[flush]\nwidth = 5": 2, "[gate]\n[flush]\nwidth = 5": 3, "[[gate]]": 1, "[gate]]": 1, "[rule]\nname = a": 2, "[relay]\nfor = 1": 2, "\n# x\nx=": 3, "azy = 1": 1} {
 		refused(t, s, api.ErrKey, line)
 	}
 	for s, line := range map[string]int{"[gate]\nwidth = 5\nwidth = 5": 3, "[gate]\nwidth = 5\nlate = 0\nwidth = x": 4, "[gate]\n[gate]": 2, "[flush]\n[gate]\n[flush]": 3, "[relay]\n[relay]": 2, "[rule]\npattern = a\npattern = b": 3} {
@@ -115,6 +115,15 @@ func TestP25_2_Check(t *testing.T) {
 			t.Errorf("Check = %d, Print %d; want %d", config.Check(worse), err, c.want)
 		}
 	}
+	for i, c := range []api.RelayConfig{{Nodes: []string{"a"}}, {Copies: 1}, {Replicas: 1}, {Held: 1}, {Newest: true}} {
+		want := api.ErrCopies
+		if i == 1 {
+			want = api.ErrNode
+		}
+		if err := config.Check(api.Setup{Gate: usual, Relay: c}); err != want {
+			t.Errorf("Check of the relay %v = %d; want %d", c, err, want)
+		}
+	}
 	if config.Check(api.Setup{}) != api.ErrConfig || config.Check(api.Setup{Gate: usual, Relay: api.RelayConfig{Nodes: []string{}}}) != api.OK {
 		t.Error("Check of little")
 	}
@@ -135,6 +144,10 @@ func TestP25_3_Print(t *testing.T) {
 		"[relay]\nnodes = b [a] #\ncopies = 1\nreplicas = 1\nheld = 9\nnewest = yes\n"
 	if err != api.OK || text != want {
 		t.Errorf("Print = %q, %d; want %q", text, err, want)
+	}
+	s.Alarms[0].Name, s.Relay.Nodes[0] = "!~", "~!"
+	if _, err := config.Print(s); err != api.OK {
+		t.Errorf("Print of the first and the last byte that may be: %d", err)
 	}
 	for _, name := range []string{"a b", "a\n", "é", "\x7f", "a\t", "\x00"} {
 		s := full()
@@ -172,6 +185,24 @@ func TestP25_3_Print(t *testing.T) {
 	}
 	if text, err := config.Print(s); err != api.ErrLong || text != "" {
 		t.Errorf("Print of what is too long: %d, %d", len(text), err)
+	}
+	// A text of just so many bytes as there may be, and of one more.
+	s.Alarms[0].Name = "x"
+	for i := range s.Rules {
+		s.Rules[i].Pattern = "*"
+	}
+	text, _ = config.Print(s)
+	for i := range s.Rules {
+		grow := min(399, api.MaxText-len(text))
+		s.Rules[i].Pattern += strings.Repeat("a", grow)
+		text, _ = config.Print(s)
+	}
+	if len(text) != api.MaxText {
+		t.Errorf("Print of the longest: %d", len(text))
+	}
+	s.Alarms[0].Name += "x"
+	if text, err := config.Print(s); err != api.ErrLong || text != "" {
+		t.Errorf("Print of one byte more: %d, %d", len(text), err)
 	}
 }
 

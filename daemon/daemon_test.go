@@ -148,6 +148,16 @@ const frames = "st.counters.a.count 12 0\nst.counters.a.rate 1.2 0\nst.gauges.g 
 	"st.counters.b.count 1 30\nst.counters.b.rate 0.1 30\nst.sets.z.count 1 30\n" +
 	"st.counters.b.count 1 40\nst.counters.b.rate 0.1 40\nst.gauges.g 9 40\nst.sets.z.count 1 40\nst.sets.z.count 1 50\n"
 
+func TestTicks(t *testing.T) {
+	// At 300 the source p is let go, which was heard at 0: then q alone says how far all have come.
+	script := "setup\n[rule]\npattern = counters.*.count\narchives = 10:30\nend\nfrom p\ndatagram\na:1|c|T15\nend\ntick 100\nfrom q\ndatagram\na:2|c|T40\nend\ntick 300\n"
+	want := "accepted\nok\naccepted\nok\nwindow 1 records 2 stored 1\n"
+	run(t, script, want)
+	run(t, script+"tick 299\ntick 999999999999999\nrender 5 15 counters.a.count\n", want+"error 121\nerror 121\ncounters.a.count 10 10 1\n")
+	run(t, script+"tick 320\nrender 5 15 counters.a.count\n", want+"ok\n")
+	run(t, script+"tick 305\ndatagram\na:5|c\nend\n", want+"ok\naccepted\nwindow 4 records 2 stored 1\n")
+}
+
 func TestWindowErrors(t *testing.T) {
 	long := strings.Repeat("a", 190)
 	run(t, "datagram\n"+long+":1|c|T5\na:1|c|T15\na:1|c|T25\nend\nsink\nnames\n", "accepted accepted accepted\nwindow 0 error 2\nwindow 1 records 2 stored 0\nconnection 45 open\nwhole 1\nlost\nwrites 1\n")

@@ -165,9 +165,9 @@ func TestP1_NotMade(t *testing.T) {
 	copied := *made
 	for _, q := range []*due.Queue{nil, {}, &copied} {
 		set(t, q, "a", 1, api.ErrNil)
-		_, at := q.At("a")
+		when, at := q.At("a")
 		_, next := q.Next()
-		if at || next || q.Drop("a") || q.Take(9) != nil || q.Len() != 0 || slices.Collect(q.All()) != nil {
+		if when != 0 || at || next || q.Drop("a") || q.Take(9) != nil || q.Len() != 0 || slices.Collect(q.All()) != nil {
 			t.Error("a queue that was not made")
 		}
 	}

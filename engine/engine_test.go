@@ -91,6 +91,29 @@ func TestP15_Examples(t *testing.T) {
 	}
 }
 
+func TestP15_4_Looks(t *testing.T) {
+	c := usual
+	c.Shards, c.Queue = 1, 3
+	e := made(t, c)
+	feed(t, e, packet("s", strings.Repeat("t:1|ms|T5\ns:x|s|T5\n", 4)), 1, 1, 1, 1, 1, 1, 1, 1)
+	for i := range 3 {
+		view(t, e, api.View{Pending: 8 - i, In: []int{i}, Out: []int{0}, Steps: i})
+		e.Step(0)
+	}
+	view(t, e, api.View{Pending: 5, In: []int{3}, Out: []int{0}, Steps: 3})
+	e.Step(0)
+	e.Step(0)
+	view(t, e, api.View{Pending: 4, In: []int{3}, Out: []int{0}, Steps: 5})
+	feed(t, e, shut)
+	drain(t, e, 11+4+2)
+	l := e.Windows()
+	l[0].Tallies[0].Samples[0], l[0].Tallies[1].Members[0] = 7, "z"
+	again := e.Windows()
+	if again[0].Tallies[0].Samples[0] != 1000000 || again[0].Tallies[1].Members[0] != "x" {
+		t.Error("what is handed out is shared")
+	}
+}
+
 func TestP15_1_2_Errors(t *testing.T) {
 	if e, err := engine.New(api.Config{}); e != nil || err != api.ErrConfig {
 		t.Errorf("New: %d", err)

@@ -164,7 +164,7 @@ func TestP17_4_Faults(t *testing.T) {
 		{"4B01 28 65", 3, api.ErrPickle}, {"28 28 65", 2, api.ErrPickle}, {"6C", 0, api.ErrPickle}, {"4B01 74", 2, api.ErrPickle}, {"85", 0, api.ErrPickle}, {"4B01 86", 2, api.ErrPickle}, {"4B01 28 4B01 86", 5, api.ErrPickle}, {"4B01 4B01 87", 4, api.ErrPickle},
 		{"30", 0, api.ErrPickle}, {"31", 0, api.ErrPickle}, {"5D 31", 1, api.ErrPickle}, {"32", 0, api.ErrPickle}, {"28 32", 1, api.ErrPickle}, {"7100", 0, api.ErrPickle}, {"28 7100", 1, api.ErrPickle}, {"5D 71", 1, api.ErrPickle}, {"5D 72000000", 1, api.ErrPickle},
 		{"94", 0, api.ErrPickle}, {"28 94", 1, api.ErrPickle}, {"6800", 0, api.ErrPickle}, {"5D 7101 6800", 3, api.ErrPickle}, {"5D 7101 6A01000001", 3, api.ErrPickle}, {"5D 68", 1, api.ErrPickle}, {"6A000000", 0, api.ErrPickle},
-		{"2E", 0, api.ErrPickle}, {"4B01 2E", 2, api.ErrPickle}, {"5D5D 2E", 2, api.ErrPickle}, {"28 5D 2E", 2, api.ErrPickle}, {"28 2E", 1, api.ErrPickle}, {"5D 2E 00", 1, api.ErrPickle}, {"29 2E", 1, api.ErrPickle}, {"5D", 1, api.ErrPickle},
+		{"2E", 0, api.ErrPickle}, {"4B01 2E", 2, api.ErrPickle}, {"5D5D 2E", 2, api.ErrPickle}, {"28 5D 2E", 2, api.ErrPickle}, {"28 2E", 1, api.ErrPickle}, {"5D 2E 00", 1, api.ErrPickle}, {"29 2E", 1, api.ErrPickle}, {"5D", 1, api.ErrPickle}, {"5D 4B01", 3, api.ErrPickle}, {"5D 4D0102", 4, api.ErrPickle}, {"5D 550161", 4, api.ErrPickle}, {"5D 49310A30", 5, api.ErrPickle}, {"5D 7101", 3, api.ErrPickle},
 		{"5D 00", 1, api.ErrOp}, {"5D 63", 1, api.ErrOp}, {"52", 0, api.ErrOp}, {"5D 4E", 1, api.ErrOp}, {"FF", 0, api.ErrOp}, {"5D 88", 1, api.ErrOp}, {"56", 0, api.ErrOp},
 	} {
 		b := batch(c.s)
@@ -187,7 +187,7 @@ func TestP17_4_Records(t *testing.T) {
 		s      string
 		number int
 	}{
-		{"5D 4B07 550161 86 612E", 0}, {"5D 32 61 2E", 0}, {"5D 550161 4B07 86 612E", 0}, {"5D 550161 4B07 86 612E", 0}, {"5D" + a7 + "61 4B01 612E", 1}, {"5D 550161 4B07 4B02 87 612E", 0}, {"5D 550161 550137 4B02 8686 612E", 0},
+		{"5D 4B07 550161 86 612E", 0}, {"5D 32 61 2E", 0}, {"5D 550161 4B07 86 612E", 0}, {"5D 550161 4B07 86 612E", 0}, {"5D" + a7 + "61 4B01 612E", 1}, {"5D 550161 4B07 4B02 87 612E", 0}, {"5D 550161 4B07 4B02 86 4B02 87 612E", 0}, {"5D 5D 4B07 4B02 86 86 612E", 0}, {"5D 550161 550137 4B02 8686 612E", 0},
 		{"5D 550161 4B07 5501 78 8686 612E", 0}, {"5D 550161 4B07 5503 312E30 8686 612E", 0}, {"5D 550161 4B07 5500 8686 612E", 0}, {"5D 550161 4B07 5D 8686 612E", 0}, {"5D 550161 4AFFFFFFFF 4B02 8686 612E", 0}, {"5D 5500 4B07 4B02 8686 612E", 0},
 		{"5D 550120 4B07 4B02 8686 612E", 0}, {"5D 550161 8A06000000000001 4B02 8686 612E", 0}, {"5D 550161 5D 4B07 61 4B02 8686 612E", 0}, {"5D 28 29 29 652E", 0}, {"5D 550161 4B07 4B02 4B02 87 86 612E", 0}, {"5D 550161 28 4B07 4B02 6C 86 612E", 0},
 		{"5D 5D 7100 6800 61 61 2E", 0}, {"5D 4B07 4B07 4B02 8686 612E", 0},

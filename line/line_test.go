@@ -27,6 +27,7 @@ func TestP4_1_Events(t *testing.T) {
 		"a.b:1.5|c|@0.1":                        with(event("a.b", api.KCounter, 1500000), func(e *api.Event) { e.Rate = 100000 }),
 		"a:+2|g":                                delta(2000000),
 		"a:-2|g":                                delta(-2000000),
+		"a:3|c|T1099511627775":                  {Name: "a", Kind: api.KCounter, Value: 3000000, Rate: api.Unit, Timed: true, Time: api.MaxStamp},
 		"a:2|g":                                 event("a", api.KGauge, 2000000),
 		"a:-0|g":                                delta(0),
 		"a:+007.50|g":                           delta(7500000),
@@ -77,7 +78,7 @@ func TestP4_2_Check(t *testing.T) {
 		want api.Errno
 	}{
 		{good, 0}, {set, 0}, {event("", 0, 1<<62), api.ErrBadName}, {event("a b", api.KCounter, 1), api.ErrBadName}, {event("a", 0, 1<<62), api.ErrBadKind}, {event("a", 5, 1), api.ErrBadKind},
-		{event("a", api.KCounter, api.MaxValue), 0}, {event("a", api.KCounter, api.MaxValue+1), api.ErrBadValue}, {event("a", api.KCounter, -api.MaxValue-1), api.ErrBadValue}, {event("a", api.KGauge, -1<<63), api.ErrBadValue},
+		{event("a", api.KCounter, api.MaxValue), 0}, {event("a", api.KCounter, api.MaxValue+1), api.ErrBadValue}, {event("a", api.KCounter, -api.MaxValue), 0}, {event("a", api.KCounter, -api.MaxValue-1), api.ErrBadValue}, {event("a", api.KGauge, -1<<63), api.ErrBadValue},
 		{event("a", api.KTimer, -1), api.ErrBadValue}, {event("a", api.KTimer, api.MaxTimer), 0}, {event("a", api.KTimer, api.MaxTimer+1), api.ErrBadValue}, {event("a", api.KGauge, -1), api.ErrBadValue}, {event("a", api.KGauge, 0), 0},
 		{with(event("a", api.KGauge, -1), func(e *api.Event) { e.Delta = true }), 0}, {with(event("a", api.KGauge, -api.MaxValue-1), func(e *api.Event) { e.Delta = true }), api.ErrBadValue},
 		{with(good, func(e *api.Event) { e.Delta = true }), api.ErrBadValue}, {with(event("a", api.KTimer, 1), func(e *api.Event) { e.Delta = true }), api.ErrBadValue}, {with(set, func(e *api.Event) { e.Delta = true }), api.ErrBadValue},

@@ -50,6 +50,18 @@ func TestP3_2_Clean(t *testing.T) {
 			t.Errorf("Clean(%q) = %q, %v; want %q", s, got, ok, want)
 		}
 	}
+	for _, r := range []rune{9, 10, 11, 12, 13, 32, 0xA0, 0x2028, 0x2029, 0x3000, 0xFEFF} {
+		if got, ok := name.Clean("a" + string(r) + "b"); got != "a_b" || !ok {
+			t.Errorf("Clean of %x = %q", r, got)
+		}
+		for _, no := range []rune{r - 1, r + 1} {
+			if blank := strings.ContainsRune("\t\n\v\f\r \u00a0\u2028\u2029", no); !blank && no != '!' {
+				if got, _ := name.Clean("a" + string(no) + "b"); got != "ab" {
+					t.Errorf("Clean of %x = %q", no, got)
+				}
+			}
+		}
+	}
 	for _, s := range []string{"", "ä..", "...", "é", "\xff", longest + "a", nodes(17), strings.Repeat("a.", 1000)} {
 		if got, ok := name.Clean(s); got != "" || ok {
 			t.Errorf("Clean(%q) = %q, %v", s, got, ok)

@@ -150,6 +150,13 @@ func TestP20_2_11_Refused(t *testing.T) {
 			t.Errorf("Fetch%v: %d", c, err)
 		}
 	}
+	write(t, s, "b", 3, 0, 0, 0)
+	if l, err := s.Fetch(compile("b"), 0, 0, 0); len(l) != 1 || err != api.OK {
+		t.Errorf("Fetch from 0 to 0: %v, %d", l, err)
+	}
+	if l, err := s.Fetch(compile("b"), api.MaxStamp, api.MaxStamp, api.MaxStamp); len(l) != 1 || err != api.OK {
+		t.Errorf("Fetch at the last second: %v, %d", l, err)
+	}
 	if l, err := s.Fetch(api.Pattern{}, 1, 2, 2); len(l) != 0 || err != api.OK || len(s.Find(api.Pattern{})) != 0 {
 		t.Errorf("of a pattern that may not be: %v, %d", l, err)
 	}

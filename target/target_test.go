@@ -40,7 +40,7 @@ func TestP21_1_Parse(t *testing.T) {
 		"a.{b,c}": path("a.{b,c}"), "12": number(12000000), "true": boolean(1), "false": boolean(0), "alias(a, 'x')": call("alias", path("a"), text("x")), "group()": call("group"), " \tgroup \t( \t) \t": call("group"),
 		"-0.5": number(-500000), "-0": number(0), "007": number(7000000), "1.0000000": path("1.0000000"), "1000000000": number(api.MaxValue), "1000000000.1": path("1000000000.1"), "2000000000": path("2000000000"), "--1": path("--1"), "-": path("-"), "truex": path("truex"),
 		"true(a)": call("true", path("a")), "[a-c]?*": path("[a-c]?*"), "f({a,b}.c,d)": call("f", path("{a,b}.c"), path("d")), "f({a,b},{c,,}d)": call("f", path("{a,b}"), path("{c,,}d")), "'it\"s'": text("it\"s"), "\"it's\"": text("it's"), "''": text(""), "f('a,)(')": call("f", text("a,)(")),
-		"fA(a)": call("fA", path("a")), "f": path("f"), "f(f, true ,'x' , 1)": call("f", path("f"), boolean(1), text("x"), number(1000000)), "' ~'": text(" ~"), strings.Repeat("a", 400): path(strings.Repeat("a", 400)),
+		"fA(a)": call("fA", path("a")), "azAZ(azAZ09)": call("azAZ", path("azAZ09")), "f": path("f"), "f(f, true ,'x' , 1)": call("f", path("f"), boolean(1), text("x"), number(1000000)), "' ~'": text(" ~"), strings.Repeat("a", 400): path(strings.Repeat("a", 400)),
 	} {
 		parse(t, s, want)
 	}
@@ -49,7 +49,7 @@ func TestP21_1_Parse(t *testing.T) {
 			t.Errorf("Parse(%.40q): %d", s, err)
 		}
 	}
-	for s, place := range map[string]int{"": 0, "f(": 2, "f(a": 3, "f(a,)": 4, "a b": 2, "f(a))": 4, "a..b": 0, "F(a)": 0, "'a": 2, "f(1 2)": 4, "1.(a)": 0, " ": 1, "f(,)": 2, "f(a,": 4, "f(a, )": 5, "(a)": 0, "f a": 2, "f(a b)": 4, "'a' b": 4, "'a''b'": 3, "'a\n'": 2, "'é'": 1, "'\x7f'": 1, "\"a'": 3,
+	for s, place := range map[string]int{"": 0, "f(": 2, "f(a": 3, "f(a,)": 4, "a b": 2, "f(a))": 4, "a..b": 0, "F(a)": 0, "'a": 2, "f(1 2)": 4, "1.(a)": 0, " ": 1, "f(,)": 2, "f(a,": 4, "f(a, )": 5, "(a)": 0, "f a": 2, "f(a b)": 4, "'a' b": 4, "'a''b'": 3, "'a\n'": 2, "'é'": 1, "'\x7f'": 1, "'\x1f'": 1, "\"a'": 3,
 		"a,b": 1, "{a,b": 0, "f({a,b)": 2, "{a b}": 0, "f(a..b, (": 2, "f1(a)": 0, "f_(a)": 0, "a.b(c)": 0, "é": 0, "\x00": 0, "a\x00": 1, "f(a;b)": 3, "f('a'": 5, "'a'(b)": 3, "f(a) (b)": 5, "[": 0, strings.Repeat("a", 401): 0, "f( 1,  [])": 7, "f(a)\n": 4, "f\n(a)": 1, "{b}(a)": 0} {
 		if e, at, err := target.Parse(s); at != place || err != api.ErrSyntax || !reflect.DeepEqual(e, api.Expr{}) {
 			t.Errorf("Parse(%q) = %v, %d at %d; want a fault at %d", s, e, err, at, place)
@@ -116,7 +116,7 @@ func TestP21_3_Check(t *testing.T) {
 		"limit(a, 16384)": 0, "limit(a, 16385)": api.ErrType, "limit(a, 0)": 0, "scale(a, -0.5)": 0, "transformNull(a)": 0, "transformNull(a, 1)": 0, "transformNull(a, 1, 1)": api.ErrCount, "transformNull()": api.ErrCount, "keepLastValue(a)": 0, "keepLastValue(a, 1)": 0, "keepLastValue(a, 0.5)": api.ErrType,
 		"aliasByNode(a)": api.ErrCount, "aliasByNode(a, 1)": 0, "aliasByNode(a, 1, 2, 3)": 0, "aliasByNode(a, 1, 'x')": api.ErrType, "aliasByNode(1, 1)": api.ErrType, "divideSeries(a, b)": 0, "divideSeries(a)": api.ErrCount, "divideSeries(a, b, c)": api.ErrCount, "divideSeries(a, 1)": api.ErrType, "summarize(a, 1, 'x')": 0,
 		"summarize(a, 'x', 1)": api.ErrType, "summarize(a, 1)": api.ErrCount, "alias(a, b)": api.ErrType, "alias(a, true)": api.ErrType, "absolute(a, b)": api.ErrCount, "absolute(frob(a, 1))": api.ErrWord, "sumSeries(scale(a), frob(b))": api.ErrCount, "sumSeries(frob(b), scale(a))": api.ErrWord, "sumSeries(frob(b), 1)": api.ErrType,
-		"scale(frob(a))": api.ErrCount, "SumSeries": 0, "sum": 0, "sumSeries(a, b, c, d, e, f, g, h, i, j, k, l, m, n, o, p)": 0, "true(a)": api.ErrWord, "sumseries(a)": api.ErrWord, "aliasByNode(a, 1, 2, 3, 4, 5, 6, 7, 8, 9, 10, 11, 12, 13, 14, 15)": 0,
+		"scale(frob(a))": api.ErrCount, "sumSeries(a, frob(b))": api.ErrWord, "sumSeries(absolute(a), b, scale(c))": api.ErrCount, "SumSeries": 0, "sum": 0, "sumSeries(a, b, c, d, e, f, g, h, i, j, k, l, m, n, o, p)": 0, "true(a)": api.ErrWord, "sumseries(a)": api.ErrWord, "aliasByNode(a, 1, 2, 3, 4, 5, 6, 7, 8, 9, 10, 11, 12, 13, 14, 15)": 0,
 	} {
 		e, _, err := target.Parse(s)
 		if err != api.OK || target.Check(e) != want {

@@ -70,13 +70,13 @@ func TestP6_1_2_5_6_Windows(t *testing.T) {
 		}
 	}
 	for _, w := range wrong {
-		_, e1 := window.Of(1, w)
-		_, e2 := window.Begin(greatest, w)
-		_, e3 := window.End(greatest, w)
-		_, e4 := window.Through(least, w)
-		_, e5 := window.Cover(5, 1, w)
+		n1, e1 := window.Of(1, w)
+		n2, e2 := window.Begin(greatest, w)
+		n3, e3 := window.End(greatest, w)
+		n4, e4 := window.Through(least, w)
+		l, e5 := window.Cover(5, 1, w)
 		b, e6 := window.New(w)
-		if b != nil || slices.ContainsFunc([]api.Errno{e1, e2, e3, e4, e5, e6}, func(e api.Errno) bool { return e != api.ErrWidth }) {
+		if b != nil || l != nil || n1 != 0 || n2 != 0 || n3 != 0 || n4 != 0 || slices.ContainsFunc([]api.Errno{e1, e2, e3, e4, e5, e6}, func(e api.Errno) bool { return e != api.ErrWidth }) {
 			t.Errorf("width %d: %d %d %d %d %d %d", w, e1, e2, e3, e4, e5, e6)
 		}
 	}

@@ -68,6 +68,8 @@ func TestP5_3_4_Packer(t *testing.T) {
 	add(t, p, "abcd", "", api.ErrLong, 0)
 	add(t, p, "a\n", "", api.ErrBreak, 0)
 	add(t, p, "a\r", "", api.ErrBreak, 0)
+	add(t, p, "\na", "", api.ErrBreak, 0)
+	add(t, p, "\n", "", api.ErrBreak, 0)
 	add(t, p, "abcd\nef", "", api.ErrBreak, 0)
 	add(t, p, "abcd\r", "", api.ErrBreak, 0)
 	add(t, p, "\ra", "", 0, 2)
@@ -102,6 +104,7 @@ func TestP5_5_6_Stream(t *testing.T) {
 		}
 	}
 	stream(t, 1024)
+	stream(t, 1)
 	s := stream(t, 3)
 	feed(t, s, "ab", nil, 0, "ab")
 	feed(t, s, "c\r\nd\nefgh\ni", []string{"abc", "d"}, 1, "i")
