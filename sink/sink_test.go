@@ -4,7 +4,6 @@ import (
 	"bytes"
 	"math"
 	"math/rand"
-	"reflect"
 	"slices"
 	"testing"
 
@@ -86,10 +85,9 @@ func TestP18_1_Edges(t *testing.T) {
 	report(t, s, 64+64+64, ids(1, 2), nil, open("abc"))
 
 	plan[0].Fail = true // what was handed in is not kept
-	copied := *s
-	for _, s := range []*sink.Sink{nil, {}, &copied} {
+	for _, s := range []*sink.Sink{nil, {}} {
 		frame(t, s, 1, "a", api.ErrNil)
-		if !reflect.DeepEqual(s.Report(), api.SinkReport{}) {
+		if !equal(s.Report(), api.SinkReport{}) {
 			t.Error("a sink that was not made")
 		}
 	}
@@ -127,7 +125,7 @@ func TestP18_3_to_7(t *testing.T) {
 		checkConns(t, s.Report(), frames)
 		p, q := plain.Report(), pieces.Report()
 		q.Writes = p.Writes
-		if !reflect.DeepEqual(p, q) || len(p.Lost) > 0 || len(p.Conns) > 1 {
+		if !equal(p, q) || len(p.Lost) > 0 || len(p.Conns) > 1 {
 			t.Fatalf("in pieces %+v; want %+v", q, p)
 		}
 	}

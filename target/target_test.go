@@ -2,7 +2,6 @@ package target_test
 
 import (
 	"math/rand"
-	"reflect"
 	"slices"
 	"strings"
 	"testing"
@@ -23,7 +22,7 @@ func call(s string, args ...api.Expr) api.Expr {
 
 func parse(t *testing.T, s string, want api.Expr) {
 	t.Helper()
-	if e, place, err := target.Parse(s); err != api.OK || place != 0 || !reflect.DeepEqual(e, want) {
+	if e, place, err := target.Parse(s); err != api.OK || place != 0 || !equal(e, want) {
 		t.Errorf("Parse(%q) = %v, %d at %d; want %v", s, e, err, place, want)
 	}
 }
@@ -51,7 +50,7 @@ func TestP21_1_Parse(t *testing.T) {
 	}
 	for s, place := range map[string]int{"": 0, "f(": 2, "f(a": 3, "f(a,)": 4, "a b": 2, "f(a))": 4, "a..b": 0, "F(a)": 0, "'a": 2, "f(1 2)": 4, "1.(a)": 0, " ": 1, "f(,)": 2, "f(a,": 4, "f(a, )": 5, "(a)": 0, "f a": 2, "f(a b)": 4, "'a' b": 4, "'a''b'": 3, "'a\n'": 2, "'é'": 1, "'\x7f'": 1, "'\x1f'": 1, "\"a'": 3,
 		"a,b": 1, "{a,b": 0, "f({a,b)": 2, "{a b}": 0, "f(a..b, (": 2, "f1(a)": 0, "f_(a)": 0, "a.b(c)": 0, "é": 0, "\x00": 0, "a\x00": 1, "f(a;b)": 3, "f('a'": 5, "'a'(b)": 3, "f(a) (b)": 5, "[": 0, strings.Repeat("a", 401): 0, "f( 1,  [])": 7, "f(a)\n": 4, "f\n(a)": 1, "{b}(a)": 0} {
-		if e, at, err := target.Parse(s); at != place || err != api.ErrSyntax || !reflect.DeepEqual(e, api.Expr{}) {
+		if e, at, err := target.Parse(s); at != place || err != api.ErrSyntax || !equal(e, api.Expr{}) {
 			t.Errorf("Parse(%q) = %v, %d at %d; want a fault at %d", s, e, err, at, place)
 		}
 	}
@@ -61,7 +60,7 @@ func TestP21_1_Parse(t *testing.T) {
 		err   api.Errno
 	}{{strings.Repeat(" ", 65537), 65536, api.ErrLong}, {deep(17), 33, api.ErrDeep}, {strings.Repeat("f(", 99), 33, api.ErrDeep}, {strings.Repeat("f(", 16) + "F(", 32, api.ErrSyntax}, {wide(17), 33, api.ErrMany}, {"f(" + wide(17), 35, api.ErrMany}, {wide(16)[:33] + ",)", 33, api.ErrMany}, {wide(16)[:33] + "\n", 33, api.ErrSyntax},
 		{strings.Repeat("f(", 15) + "f(a),f(f(a", 38, api.ErrDeep}} {
-		if e, at, err := target.Parse(c.s); at != c.place || err != c.err || !reflect.DeepEqual(e, api.Expr{}) {
+		if e, at, err := target.Parse(c.s); at != c.place || err != c.err || !equal(e, api.Expr{}) {
 			t.Errorf("Parse(%.60q) = %v, %d at %d; want %d at %d", c.s, e, err, at, c.err, c.place)
 		}
 	}
@@ -122,7 +121,7 @@ func TestP21_3_Check(t *testing.T) {
 		if err != api.OK || target.Check(e) != want {
 			t.Errorf("Check of %q = %d (%d); want %d", s, target.Check(e), err, want)
 		}
-		if want != 0 && target.Paths(e) != nil {
+		if want != 0 && len(target.Paths(e)) != 0 {
 			t.Errorf("Paths of %q", s)
 		}
 	}
@@ -149,7 +148,7 @@ func TestP21_4_Paths(t *testing.T) {
 	if l := target.Paths(e); !slices.Equal(l, []string{"web.*.hits", "b", "c", "b", "web.*.hits"}) {
 		t.Errorf("Paths = %q", l)
 	}
-	if l := target.Paths(path("a")); !slices.Equal(l, []string{"a"}) || target.Paths(api.Expr{}) != nil {
+	if l := target.Paths(path("a")); !slices.Equal(l, []string{"a"}) || len(target.Paths(api.Expr{})) != 0 {
 		t.Errorf("Paths = %q", l)
 	}
 }
