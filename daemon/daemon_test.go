@@ -59,7 +59,7 @@ func TestP26_1_Refused(t *testing.T) {
 	refused(t, strings.Repeat("\n", 4096)+"x", api.ErrMany, 0)
 	run(t, strings.Repeat("\n", 4096), "")
 	run(t, strings.Repeat("\n", 4095)+"#", "")
-	for _, s := range []string{"x", "end", "Names", "from", "from a b", "tick", "tick x", "tick -1", "tick +1", "tick 1 2", "tick 1.0", "tick 1234567890123456", "tick 5\r", "shut now", "ledger 1", "find", "find a b", "render 1 2", "render 1 2 ", "render x 2 a", "render 1 x a", "render 1 1234567890123456 a",
+	for _, s := range []string{"x", "end", "Names", "from", "from a b", "tick", "tick x", "tick -1", "tick +1", "tick 1 2", "tick 1.0", "tick 1234567890123456", "tick 5\r", "shut now", "ledger 1", "find", "find a b", "render x 2 a", "render 1 x a", "render 1 1234567890123456 a",
 		"names x", "sink x", "mute a", "mute 5", "mute a b", "mute a 1 2", "state", "state a b", "down", "up", "down a b", "take a", "take a x", "take 5", "take a 1 2", "relay x", "plan", "plan x", "plan !", "plan 5!!", "plan 1234567890", "plan -1", "plan 5 x", "plan 5 !", "datagram", "datagram\nend x", "datagram x\nend", "datagram\na:1|c\n end end", "setup x\nend", "setup", "setup\n[gate]", "Setup\nend"} {
 		refused(t, s, api.ErrScript, 1)
 		refused(t, "\n# x\nsetup\n[gate]\nend\n"+s, api.ErrScript, 6)

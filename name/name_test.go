@@ -135,6 +135,11 @@ func TestP3_4_Text(t *testing.T) {
 			t.Errorf("Text of %q = %q, %d; want %q", s, got, err, want)
 		}
 	}
+	for _, s := range []string{nodes(16), "{" + strings.Repeat(",", 15) + "}", "a{b,c}d?"} {
+		if got, err := name.Text(compile(t, s)); got != s || err != api.OK {
+			t.Errorf("Text of %q = %q, %d", s, got, err)
+		}
+	}
 	for _, p := range wrong() {
 		if s, err := name.Text(p); s != "" || err != api.ErrPattern || name.Match(p, "a") {
 			t.Errorf("Text(%v) = %q, %d", p, s, err)
@@ -200,7 +205,7 @@ func TestP3_5_Match(t *testing.T) {
 		p, s string
 		want bool
 	}{{"a*c", "ac", true}, {"a*c", "abbc", true}, {"a*c", "abcd", false}, {"a*c", "a.c", false}, {"*.x", "a.x", true}, {"*.x", "x", false}, {"{web,db}?", "web1", true}, {"{web,db}?", "web", false},
-		{"{a,ab}{c,bc}", "abc", true}, {"*", "a b", false}, {"*", "", false}, {"[ab]", "c", false}, {"{,a}", "a", true}, {"{a}", "ab", false}, {"?", "ab", false}, {"a", "a", true}, {"a*", "a-_", true}} {
+		{"{a,ab}{c,bc}", "abc", true}, {"*", "a b", false}, {"*", "", false}, {"[ab]", "c", false}, {"[ab]", "a", true}, {"[ab]", "b", true}, {"[ab]", "ab", false}, {"a[b]", "a", false}, {"x[0-9_]y", "x5y", true}, {"x[0-9_]y", "x_y", true}, {"x[0-9]y", "xay", false}, {"[ab]*", "bcd", true}, {"{,a}", "a", true}, {"{a}", "ab", false}, {"?", "ab", false}, {"a", "a", true}, {"a*", "a-_", true}} {
 		if got := name.Match(compile(t, c.p), c.s); got != c.want {
 			t.Errorf("Match(%q, %q) = %v", c.p, c.s, got)
 		}
